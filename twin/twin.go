@@ -1,0 +1,30 @@
+// Package twin makes copies that share no memory with what they are made of.
+package twin
+
+import (
+	"slices"
+
+	"pleach/api"
+)
+
+// Clusters tells a copy of cs.
+func Clusters(cs []api.Cluster) []api.Cluster {
+	out := slices.Clone(cs)
+	for i := range out {
+		out[i].Members = slices.Clone(out[i].Members)
+	}
+	return out
+}
+
+// Hier tells a copy of h.
+func Hier(h api.Hier) api.Hier {
+	h.Dist = slices.Clone(h.Dist)
+	for i := range h.Dist {
+		h.Dist[i] = slices.Clone(h.Dist[i])
+	}
+	h.Levels = slices.Clone(h.Levels)
+	for i := range h.Levels {
+		h.Levels[i] = Clusters(h.Levels[i])
+	}
+	return h
+}

@@ -28,3 +28,11 @@ func Hier(h api.Hier) api.Hier {
 	}
 	return h
 }
+
+// Feed tells a copy of f.
+func Feed(f api.Feed) api.Feed {
+	f.Ring = slices.Clone(f.Ring)
+	f.Win = slices.Clone(f.Win)
+	f.Log = slices.Clone(f.Log)
+	return f
+}

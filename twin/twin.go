@@ -36,3 +36,10 @@ func Feed(f api.Feed) api.Feed {
 	f.Log = slices.Clone(f.Log)
 	return f
 }
+
+// Tie tells a copy of t.
+func Tie(t api.Tie) api.Tie {
+	t.Path = slices.Clone(t.Path)
+	t.Kids = slices.Clone(t.Kids)
+	return t
+}

@@ -43,3 +43,9 @@ func Tie(t api.Tie) api.Tie {
 	t.Kids = slices.Clone(t.Kids)
 	return t
 }
+
+// Node tells a copy of n.
+func Node(n api.Node) api.Node {
+	n.T, n.F = Tie(n.T), Feed(n.F)
+	return n
+}

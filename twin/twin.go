@@ -49,3 +49,14 @@ func Node(n api.Node) api.Node {
 	n.T, n.F = Tie(n.T), Feed(n.F)
 	return n
 }
+
+// World tells a copy of w.
+func World(w api.World) api.World {
+	w.Nodes = slices.Clone(w.Nodes)
+	for i := range w.Nodes {
+		w.Nodes[i] = Node(w.Nodes[i])
+	}
+	w.Fly, w.Said = slices.Clone(w.Fly), slices.Clone(w.Said)
+	w.H = Hier(w.H)
+	return w
+}

@@ -324,6 +324,8 @@ func TestNothingIsTouched(t *testing.T) {
 	}
 	a, b := Split(d, l[:3], 1)
 	a[0], b[0] = 88, 88
+	a, _ = Split(d, l[:1], 1)
+	a[0] = 88
 	if !slices.Equal(l, []int{1, 2, 5, 77}) {
 		t.Error(l)
 	}

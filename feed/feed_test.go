@@ -67,6 +67,7 @@ func TestBegin(t *testing.T) {
 	for _, next := range []int{0, -1, api.MaxSeq + 1} {
 		check(t, "at none", Begin(idle, next), idle)
 	}
+	check(t, "begun at 1", Begin(api.Feed{Next: 1}, 9), api.Feed{Next: 1, Top: 8})
 	check(t, "begun, 9", Begin(from(1, 3, 2), 9), from(1, 3, 8))
 	check(t, "begun, 2", Begin(from(1, 3, 2), 2), from(1, 3, 2))
 	check(t, "begun, 0", Begin(from(1, 3, 2), 0), from(1, 3, 2))
@@ -114,6 +115,11 @@ func TestSay(t *testing.T) {
 
 func TestComes(t *testing.T) {
 	check(t, "next", Comes(from(1, 3, 2), item(3)), told(from(1, 3, 3), 3))
+	check(t, "the first", Comes(api.Feed{Next: 1}, item(1)), told(api.Feed{Next: 1, Top: 1}, 1))
+	longest := Comes(from(1, 3, 2), api.Item{Seq: 3, Text: strings.Repeat("x", 12)})
+	if longest.Next != 4 || longest.Log[2].Text != strings.Repeat("x", 12) {
+		t.Error(longest)
+	}
 	check(t, "next, of more", Comes(from(1, 3, 9), item(3)), told(from(1, 3, 9), 3))
 	check(t, "ahead", Comes(from(1, 3, 2), item(5)), from(1, 3, 5, 5))
 	check(t, "ahead of what waits", Comes(from(1, 3, 5, 5), item(4)), from(1, 3, 5, 4, 5))

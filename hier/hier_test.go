@@ -58,8 +58,8 @@ func of(d [][]int, k int, ground ...[]int) api.Hier {
 	return h
 }
 
-// ground tells who is in which of the lowest clusters of h.
-func ground(h api.Hier) [][]int {
+// lowest tells who is in which of the lowest clusters of h.
+func lowest(h api.Hier) [][]int {
 	var out [][]int
 	if len(h.Levels) > 0 {
 		for _, c := range h.Levels[0] {
@@ -120,6 +120,8 @@ func TestMay(t *testing.T) {
 		func(h *api.Hier) { h.Levels[0][0].Members = []int{3, 2, 1} },
 		func(h *api.Hier) { h.Levels[0][2].Members = []int{7, 7} },
 		func(h *api.Hier) { h.Levels = [][]api.Cluster{{}} },
+		func(h *api.Hier) { h.Levels = [][]api.Cluster{{{Members: []int{1, 2, 3}, Leader: 1}}} },
+		func(h *api.Hier) { h.Levels = [][]api.Cluster{{{Members: []int{3, 2}, Leader: 2}}} },
 	} {
 		h := fresh()
 		if spoil(&h); May(h) {
@@ -181,7 +183,7 @@ func TestLeave(t *testing.T) {
 		3: {{4, 5, 6}, {1, 2}, {7, 8}},
 		0: {{4, 5, 6}, {1, 2}, {7, 8}},
 	} {
-		got := ground(Leave(h, id))
+		got := lowest(Leave(h, id))
 		if !reflect.DeepEqual(got, want) || !May(Leave(h, id)) {
 			t.Errorf("Leave of %d: %v", id, got)
 		}
@@ -227,7 +229,7 @@ func TestAnyhow(t *testing.T) {
 				t.Fatal(h)
 			}
 			n := 0
-			for _, l := range ground(h) {
+			for _, l := range lowest(h) {
 				for _, id := range l {
 					n++
 					if !in[id] {

@@ -219,7 +219,9 @@ func TestNothingIsTouched(t *testing.T) {
 	a, _ := Goes(f)
 	b, _ := Skips(f, 12, api.Tired)
 	c, _ := Skips(f, 1, api.Tired)
-	d, _ := Goes(begun(9, 12, 10))
+	waits := begun(9, 12, 9, 11)
+	waits.Next = 8 // nothing goes
+	d, _ := Goes(waits)
 	for _, got := range []api.Feed{a, b, c, d} {
 		for _, l := range [][]api.Item{append(got.Ring, api.Item{}), append(got.Win, api.Item{})} {
 			for i := range l {
@@ -232,6 +234,10 @@ func TestNothingIsTouched(t *testing.T) {
 		}
 	}
 	want := begun(9, 12, 9, 11)
+	waits.Next = 9
+	if !reflect.DeepEqual(waits, want) {
+		t.Error(waits)
+	}
 	if !reflect.DeepEqual(f, want) || f.Log[:9][8].Kind != 77 || f.Ring[:7][6].Seq != 77 || f.Win[:3][2].Seq != 77 {
 		t.Error(f)
 	}

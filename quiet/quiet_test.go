@@ -106,6 +106,15 @@ func TestRound(t *testing.T) {
 	}
 }
 
+// TestMost: of more than can be on their way 2000 come.
+func TestMost(t *testing.T) {
+	w := fresh(t, rand.New(rand.NewSource(10)))
+	w.Fly = slices.Repeat([]api.Gram{{To: 1, B: "x"}}, 2003)
+	if w = Round(w); len(w.Fly) != 3 || w.Nodes[0].Bad != 2000 {
+		t.Error(len(w.Fly), w.Nodes[0].Bad)
+	}
+}
+
 func TestTree(t *testing.T) {
 	w := grown(t, rand.New(rand.NewSource(12)), 5, 10)
 	if !Tree(w) {
@@ -170,6 +179,14 @@ func TestStill(t *testing.T) {
 	old.Nodes[0].T.Born -= 1000
 	if !Still(old) {
 		t.Error("just fresh is fresh")
+	}
+	room := twin.World(w)
+	for i := range room.Nodes {
+		s := &room.Nodes[i].T
+		s.Path = append(s.Path, 77)[:len(s.Path)]
+	}
+	if Still(room); room.Nodes[p-1].T.Path[:len(room.Nodes[p-1].T.Path)+1][len(room.Nodes[p-1].T.Path)] != 77 {
+		t.Error("it wrote into spare room")
 	}
 	gone, _ := world.Do(w, api.Step{Kind: api.StepCrash, R: leafOf(w)})
 	if Still(gone) || !Tree(gone) {

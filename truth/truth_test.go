@@ -114,11 +114,10 @@ func TestSaid(t *testing.T) {
 
 func TestLacks(t *testing.T) {
 	w := heard(t)
+	w.Nodes[0].F.Log, w.Nodes[7].F.Log = []api.Event{g1(1, 2)}, []api.Event{t1(1, "a"), g1(2, 5)}
+	wants := map[int][]api.Span{1: {{Lo: 1, Hi: 2}}, 3: {{Lo: 3, Hi: 4}}, 8: {{Lo: 2, Hi: 5}}}
 	for id := -1; id < 11; id++ {
-		var want []api.Span
-		if id == 3 {
-			want = []api.Span{{Lo: 3, Hi: 4}}
-		}
+		want := wants[id]
 		if got := Lacks(w, id); !slices.Equal(got, want) {
 			t.Errorf("Lacks of %d: %v", id, got)
 		}
@@ -130,17 +129,26 @@ func TestLoops(t *testing.T) {
 	if got := Loops(w); len(got) != 0 {
 		t.Error(got)
 	}
-	for i, parent := range []int{0, 3, 4, 5, 6, 4, 8, 7} { // 2 comes to 4, 5, 6; 7 and 8 hang on one another
+	for i, parent := range []int{0, 5, 4, 5, 6, 4, 8, 7} { // 2 comes to 5, 6, 4; 7 and 8 hang on one another
 		w.Nodes[i] = api.Node{On: true, T: api.Tie{Parent: parent}}
 	}
-	if got := Loops(w); !slices.Equal(got, []int{4, 5, 6}) {
+	if got := Loops(w); !slices.Equal(got, []int{5, 6, 4}) {
 		t.Error(got)
 	}
 	w.Nodes[4].On = false
 	if got := Loops(w); !slices.Equal(got, []int{7, 8}) {
 		t.Error(got)
 	}
-	w.Nodes[6].On = false
+	w.Nodes[7].T.Parent = 8
+	if got := Loops(w); !slices.Equal(got, []int{8}) {
+		t.Error(got)
+	}
+	w.Nodes[0].T.Parent = 1
+	if got := Loops(w); !slices.Equal(got, []int{1}) {
+		t.Error(got)
+	}
+	w.Nodes[0].T.Parent = 0
+	w.Nodes[7].On = false
 	if got := Loops(w); len(got) != 0 {
 		t.Error(got)
 	}

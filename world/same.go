@@ -29,7 +29,11 @@ func sameFeed(a, b api.Feed) bool {
 }
 
 func sameHier(a, b api.Hier) bool {
-	return a.K == b.K && slices.EqualFunc(a.Dist, b.Dist, slices.Equal[[]int]) && slices.EqualFunc(a.Levels, b.Levels, sameLevel)
+	return a.K == b.K && slices.EqualFunc(a.Dist, b.Dist, sameRow) && slices.EqualFunc(a.Levels, b.Levels, sameLevel)
+}
+
+func sameRow(a, b []int) bool {
+	return slices.Equal(a, b)
 }
 
 func sameLevel(a, b []api.Cluster) bool {

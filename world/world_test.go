@@ -236,6 +236,10 @@ func TestComes(t *testing.T) {
 	if n := do(t, w, api.Step{Kind: api.StepComes}).Nodes[1]; n.F.Next != 2 || n.F.Log[0].Text != "a" {
 		t.Errorf("%+v", n)
 	}
+	last := do(t, fresh(t), api.Step{Kind: api.StepJoin, R: 8, Text: "x"}, api.Step{Kind: api.StepTick, R: 8}, api.Step{Kind: api.StepComes}, api.Step{Kind: api.StepComes})
+	if last.Nodes[7].T.Parent != 1 {
+		t.Errorf("to the last one: %+v", last)
+	}
 	for _, i := range []int{-1, 4, 99} {
 		refuses(t, w, api.Step{Kind: api.StepComes, I: i}, api.ENone)
 	}

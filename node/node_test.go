@@ -282,6 +282,7 @@ func TestBeatDn(t *testing.T) {
 	}{
 		{"of the parent", inner(), down(3, 5, 12, 1, 3), 12},
 		{"of the parent, less", inner(), down(3, 5, 2, 1, 3), 8},
+		{"of the parent, as it lived before", inner(), down(3, 4, 12, 1, 3), 12}, // no PInc is asked for
 		{"over itself", inner(), down(3, 5, 12, 1, 4, 3), 8},
 		{"of the parent that lives anew", inner(), down(3, 6, 12, 1, 3), 8},
 		{"of another one", inner(), down(2, 5, 12, 1, 2), 8},
